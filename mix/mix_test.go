@@ -87,7 +87,7 @@ func TestConstants(t *testing.T) {
 // P401: Word.
 func TestWord(t *testing.T) {
 	for _, c := range []struct{ seed, x, want uint64 }{
-		// The results that the authors of SplitMix64 give for the seeds 0 and 1234567, which grows by A each time.
+		// The first results of SplitMix64 from 0 and from 1234567, to which it adds A each time.
 		{0, 0, 0xe220a8397b1dcdaf}, {0, A, 0x6e789e6aa1b965f4}, {A, 0, 0x6e789e6aa1b965f4}, {0, 0x3c6ef372fe94f82a, 0x06c45d188009454f},
 		{1234567, 0, 6457827717110365317}, {0, 1234567, 6457827717110365317}, {0, 1234567 + A, 3203168211198807973},
 		{0, 1, 0x910a2dec89025cc1}, {1, 0, 0x910a2dec89025cc1}, {5, 77, 0x8e64bfa85c308c9a}, {77, 5, 0x8e64bfa85c308c9a},
